@@ -48,6 +48,15 @@ func copyOf(r impl.Record) impl.Record {
 	return impl.Record{Contexts: slices.Clone(r.Contexts), Relations: slices.Clone(r.Relations)}
 }
 
+// lengthened returns a copy of a record whose slices have more elements beyond their lengths, and
+// before it the record with these elements, which no function may read or write.
+func lengthened(plain impl.Record) (impl.Record, impl.Record) {
+	whole := copyOf(plain)
+	whole.Contexts = append(whole.Contexts, impl.Context{Number: 1000, Kind: 1}, impl.Context{Number: 1, Kind: 9})
+	whole.Relations = append(whole.Relations, impl.Relation{Upper: 200, Lower: 30}, impl.Relation{Upper: 4, Lower: 30})
+	return whole, impl.Record{Contexts: whole.Contexts[:len(plain.Contexts)], Relations: whole.Relations[:len(plain.Relations)]}
+}
+
 func sameRecord(a, b impl.Record) bool {
 	return slices.Equal(a.Contexts, b.Contexts) && slices.Equal(a.Relations, b.Relations)
 }

@@ -491,15 +491,21 @@ func recordOfBits(numbers []int, bits int) impl.Record {
 	return strata(numbers, relations...)
 }
 
+// recordsOfFewContexts are all records of two, three and four deposits with certain numbers.
+func recordsOfFewContexts() []impl.Record {
+	records := []impl.Record{}
+	for _, numbers := range [][]int{{1, impl.MaxNumber}, {9, 10, 100}, {2, 9, 10, 111}} {
+		pairs := len(numbers) * (len(numbers) - 1)
+		for bits := range 1 << pairs {
+			records = append(records, recordOfBits(numbers, bits))
+		}
+	}
+	return records
+}
+
 func TestEveryOrderOfFewContexts(t *testing.T) {
-	for bits := range 4 {
-		checkWholeOrder(t, recordOfBits([]int{1, impl.MaxNumber}, bits))
-	}
-	for bits := range 64 {
-		checkWholeOrder(t, recordOfBits([]int{9, 10, 100}, bits))
-	}
-	for bits := range 4096 {
-		checkWholeOrder(t, recordOfBits([]int{2, 9, 10, 111}, bits))
+	for _, r := range recordsOfFewContexts() {
+		checkWholeOrder(t, r)
 	}
 }
 
@@ -589,11 +595,8 @@ func TestMemoryOfOrder(t *testing.T) {
 	looped.Relations = append(looped.Relations, impl.Relation{Upper: 999, Lower: 4})
 	looped.Relations = slices.Insert(looped.Relations, 0, impl.Relation{Upper: 4, Lower: 999})
 	for _, plain := range []impl.Record{pit(), looped, strata([]int{4, 30, 200})} {
-		whole := copyOf(plain)
-		whole.Contexts = append(whole.Contexts, impl.Context{Number: 1000, Kind: 1}, impl.Context{Number: 1, Kind: 9})
-		whole.Relations = append(whole.Relations, impl.Relation{Upper: 200, Lower: 30}, impl.Relation{Upper: 4, Lower: 30})
+		whole, r := lengthened(plain)
 		before := copyOf(whole)
-		r := impl.Record{Contexts: whole.Contexts[:len(plain.Contexts)], Relations: whole.Relations[:len(plain.Relations)]}
 		want, got := lists(plain), lists(r)
 		names := []string{"LaterContexts", "EarlierContexts", "ShortestChain", "ShortestCycle", "ContextOrder", "EndContexts, latest", "EndContexts, earliest"}
 		for i := range names {

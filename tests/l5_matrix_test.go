@@ -669,14 +669,8 @@ func checkWholeMatrix(t *testing.T, r impl.Record) {
 }
 
 func TestEveryMatrixOfFewContexts(t *testing.T) {
-	for bits := range 4 {
-		checkWholeMatrix(t, recordOfBits([]int{1, impl.MaxNumber}, bits))
-	}
-	for bits := range 64 {
-		checkWholeMatrix(t, recordOfBits([]int{9, 10, 100}, bits))
-	}
-	for bits := range 4096 {
-		checkWholeMatrix(t, recordOfBits([]int{2, 9, 10, 111}, bits))
+	for _, r := range recordsOfFewContexts() {
+		checkWholeMatrix(t, r)
 	}
 }
 
@@ -803,11 +797,8 @@ func matrixLists(r impl.Record) [][]int {
 // overwrites the results one after the other.
 func TestMemoryOfMatrix(t *testing.T) {
 	for name, plain := range matrixSites() {
-		whole := copyOf(plain)
-		whole.Contexts = append(whole.Contexts, impl.Context{Number: 1000, Kind: 1}, impl.Context{Number: 1, Kind: 9})
-		whole.Relations = append(whole.Relations, impl.Relation{Upper: 200, Lower: 30}, impl.Relation{Upper: 4, Lower: 30})
+		whole, r := lengthened(plain)
 		before := copyOf(whole)
-		r := impl.Record{Contexts: whole.Contexts[:len(plain.Contexts)], Relations: whole.Relations[:len(plain.Relations)]}
 		want, got := matrixLists(plain), matrixLists(r)
 		for i := range want {
 			if !sameRows(got[i:], want[i:]) {

@@ -770,14 +770,8 @@ func checkCyclesOfContexts(t *testing.T, r impl.Record) {
 
 func TestAllDoubtsOfFewContexts(t *testing.T) {
 	source := rand.New(rand.NewSource(6))
-	for bits := range 4 {
-		checkWholeDoubts(t, source, recordOfBits([]int{1, impl.MaxNumber}, bits))
-	}
-	for bits := range 64 {
-		checkWholeDoubts(t, source, recordOfBits([]int{9, 10, 100}, bits))
-	}
-	for bits := range 4096 {
-		checkWholeDoubts(t, source, recordOfBits([]int{2, 9, 10, 111}, bits))
+	for _, r := range recordsOfFewContexts() {
+		checkWholeDoubts(t, source, r)
 	}
 }
 
@@ -917,12 +911,9 @@ func contextLists(r impl.Record) [][]int {
 // TestMemoryOfDoubts passes slices that have more elements beyond their lengths.
 func TestMemoryOfDoubts(t *testing.T) {
 	for name, plain := range doubtSites() {
-		whole := copyOf(plain)
-		whole.Contexts = append(whole.Contexts, impl.Context{Number: 1000, Kind: 1}, impl.Context{Number: 1, Kind: 9})
-		whole.Relations = append(whole.Relations, impl.Relation{Upper: 4, Lower: 3}, impl.Relation{Upper: 3, Lower: 4})
+		whole, r := lengthened(plain)
 		wholeWeights := append(equalWeights(plain, 2), 1, 1000)
 		before, weightsBefore := copyOf(whole), slices.Clone(wholeWeights)
-		r := impl.Record{Contexts: whole.Contexts[:len(plain.Contexts)], Relations: whole.Relations[:len(plain.Relations)]}
 		weights := wholeWeights[:len(plain.Relations)]
 		relations := relationLists(plain, equalWeights(plain, 2))
 		checkSeparate(t, name, relationLists(r, weights), relations)
