@@ -587,14 +587,19 @@ func TestSpreadOf(t *testing.T) {
 	checkSpread(t, ladder(4), lettered([]int{3, 4}, []int{1, 2}), 0, 1, true)
 }
 
-func TestInvalidRecordsHaveNoPhases(t *testing.T) {
+// sitesWithoutOrder are the invalid records, and valid ones that are not consistent.
+func sitesWithoutOrder() map[string]impl.Record {
 	sites := invalidSites()
 	for name, r := range doubtSites() {
 		if consistent, _ := impl.IsConsistent(r); !consistent {
 			sites[name] = r
 		}
 	}
-	for _, r := range sites {
+	return sites
+}
+
+func TestInvalidRecordsHaveNoPhases(t *testing.T) {
+	for _, r := range sitesWithoutOrder() {
 		before := copyOf(r)
 		checkRowPhases(t, r, nil, false)
 		checkNoGrouping(t, r, nil)
